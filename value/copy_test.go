@@ -6,22 +6,9 @@ import (
 	"testing"
 
 	"wattle/api"
+	"wattle/internal/sample"
 	"wattle/value"
 )
-
-// spoil writes over all lists of a value, up to their capacity, the innermost first.
-func spoil(v api.Value) {
-	for _, x := range v.List {
-		spoil(x)
-	}
-	l, k := v.List[:cap(v.List)], v.Keys[:cap(v.Keys)]
-	for i := range l {
-		l[i] = text("spoilt")
-	}
-	for i := range k {
-		k[i] = "spoilt"
-	}
-}
 
 // TestCopy: 3.4, the same, in memory that is neither the argument's nor another copy's.
 func TestCopy(t *testing.T) {
@@ -31,7 +18,7 @@ func TestCopy(t *testing.T) {
 		if told(c) != want {
 			t.Fatalf("Copy(%.200s) = %.200s", want, told(c))
 		}
-		spoil(c)
+		sample.Spoil(c)
 		if told(v) != want || told(d) != want {
 			t.Fatalf("Copy(%.200s) shares memory", want)
 		}
@@ -50,7 +37,7 @@ func TestCopyApart(t *testing.T) {
 			t.Fatalf("Copy = %s, want %s", told(c), want)
 		}
 		c.List[i].List = append(c.List[i].List, text("more"))
-		spoil(c.List[i])
+		sample.Spoil(c.List[i])
 		for j := range v.List {
 			if j != i && told(c.List[j]) != told(v.List[j]) {
 				t.Errorf("list %d is changed with list %d", j, i)
@@ -110,7 +97,7 @@ func TestMapOrders(t *testing.T) {
 		if want := dict("a b c d", list(number(0)), list(number(1)), list(number(2)), list(number(3))); e != api.OK || told(m) != told(want) {
 			t.Errorf("Map(%q) = %s, %d", n, told(m), e)
 		}
-		spoil(m)
+		sample.Spoil(m)
 		if !slices.Equal(n, n0) || told(list(v...)) != v0 {
 			t.Errorf("Map(%q): the arguments are changed", n0)
 		}
@@ -140,8 +127,8 @@ func TestMapWrong(t *testing.T) {
 		"4096 names":           {big.Keys, big.List},
 		"a map that may not":   {[]string{"x"}, []api.Value{dict("b a", null, null)}},
 		"a field too much":     {[]string{"x"}, []api.Value{{Kind: api.KNull, Int: 1}}},
-		"a value in itself":    {[]string{"x"}, []api.Value{within(2)}},
-		"lists twice, 60 deep": {[]string{"x"}, []api.Value{doubled(60)}},
+		"a value in itself":    {[]string{"x"}, []api.Value{sample.Within(2)}},
+		"lists twice, 60 deep": {[]string{"x"}, []api.Value{sample.Doubled(60)}},
 	} {
 		if m, e := value.Map(c.names, c.vals); e != api.ErrArg || told(m) != told(null) {
 			t.Errorf("%s: Map = %.200s, %d, want null, %d", name, told(m), e, api.ErrArg)
@@ -162,7 +149,7 @@ func TestGet(t *testing.T) {
 			t.Errorf("Get(%q) = %s, %t, want null, false", k, told(got), ok)
 		}
 	}
-	for _, v := range append(scalars(), list(), list(m), dict("")) {
+	for _, v := range append(sample.Scalars(), list(), list(m), dict("")) {
 		if got, ok := value.Get(v, "a"); ok || told(got) != told(null) {
 			t.Errorf("Get(%.200s) = %s, %t, want null, false", told(v), told(got), ok)
 		}
@@ -186,12 +173,12 @@ func TestGetNew(t *testing.T) {
 	}
 	for _, k := range names {
 		v, _ := value.Get(m, k)
-		spoil(v)
+		sample.Spoil(v)
 	}
 	if told(m) != want {
 		t.Error("Get's answer shares memory with the map")
 	}
-	spoil(list(vals...))
+	sample.Spoil(list(vals...))
 	names[0] = "spoilt"
 	if told(m) != want {
 		t.Error("Map's answer shares memory with its arguments")
